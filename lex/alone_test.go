@@ -43,6 +43,15 @@ func TestAlone(t *testing.T) {
 	}
 }
 
+// P2.2: two words are none, whichever they are.
+func TestTwoWords(t *testing.T) {
+	for _, a := range allWords() {
+		for _, b := range allWords() {
+			checkAlone(t, a+" "+b, "")
+		}
+	}
+}
+
 // P2.2: what is no one token, or one of another kind.
 func TestNotAlone(t *testing.T) {
 	for _, s := range []string{"", " ", "\n", "//", "_", "_a", "_A", "1", "12", "1a", "1A", "1let", "a b", "A B", "let x", "let let", "a.b", "a.", ".a", "a,b", "a$", "a$b", "$a", "é", "aé", "a\x00", "-a", "=", "=="} {

@@ -28,6 +28,11 @@ func makeWords() map[string]uint8 {
 	return words
 }
 
+// isWord says whether s is one of the words: of a single text it is told sooner by the list than by a map that is made for it.
+func isWord(s string) bool {
+	return len(s) <= api.MaxName && !strings.Contains(s, " ") && strings.Contains(" "+wordList+" ", " "+s+" ")
+}
+
 // pastBetween tells where, from at on, the blanks and remarks of s are over.
 func pastBetween(s string, at int) int {
 	for at < len(s) {
@@ -64,13 +69,13 @@ func together(s string) string {
 	return s[:1]
 }
 
-// kindOf tells of which kind of token the whole of s is; none, if it isn't one.
-func kindOf(s string, words map[string]uint8) uint8 {
+// kindOf tells of which kind of token the whole of s, be it a word or not, is; none, if it isn't one.
+func kindOf(s string, isWord bool) uint8 {
 	switch {
 	case s == "":
 		return none
-	case words[s] != none:
-		return words[s]
+	case isWord:
+		return TWord
 	case isSmall(s[0]) && isNameLike(s):
 		return TName
 	case isGreat(s[0]) && isNameLike(s):
