@@ -195,7 +195,7 @@ func isItem(x api.Item) bool {
 	return may(table, fmt.Sprint(x.Kind), line)
 }
 
-// Trees in brackets: a type is [..], the program (..), all else {..}.
+// Trees in brackets: a type is [..], the program (..), an expression that isn't there <..>, all else {..}.
 
 func typeBrackets(t api.Type) string {
 	out := ""
@@ -229,6 +229,15 @@ func stmtBrackets(l []api.Stmt) string {
 	return out
 }
 
+// returnBrackets: a function alone has an expression in its Return.
+func returnBrackets(x api.Item) string {
+	s := exprBrackets(x.Return)
+	if x.Kind != 3 {
+		s = strings.NewReplacer("{", "<", "}", ">").Replace(s)
+	}
+	return s
+}
+
 func brackets(p api.Program) string {
 	out := ""
 	for _, x := range p.Items {
@@ -236,7 +245,7 @@ func brackets(p api.Program) string {
 		for _, f := range x.Fields {
 			out += typeBrackets(f.Type)
 		}
-		out += typeBrackets(x.Result) + stmtBrackets(x.Body) + exprBrackets(x.Return) + "}"
+		out += typeBrackets(x.Result) + stmtBrackets(x.Body) + returnBrackets(x) + "}"
 	}
 	return "(" + out + ")"
 }
@@ -245,7 +254,7 @@ func brackets(p api.Program) string {
 func nesting(s string) int {
 	deepest, open := 0, 0
 	for _, r := range s {
-		if strings.ContainsRune("([{", r) {
+		if strings.ContainsRune("([{<", r) {
 			open++
 		} else {
 			open--

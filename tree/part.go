@@ -65,11 +65,18 @@ func whole(x part, levels int) bool {
 	return true
 }
 
-func (p program) weight() int    { return 0 }
-func (x item) weight() int       { return 1 }
-func (s statement) weight() int  { return 1 }
-func (e expression) weight() int { return 1 }
-func (t typed) weight() int      { return 0 }
+func (p program) weight() int   { return 0 }
+func (x item) weight() int      { return 1 }
+func (s statement) weight() int { return 1 }
+func (t typed) weight() int     { return 0 }
+
+// What stands where only zero may is no expression that is there: the Return of an item that is no function.
+func (e expression) weight() int {
+	if e.stands == zeroOnly {
+		return 0
+	}
+	return 1
+}
 
 func (p program) has(yield func(part) bool) {
 	for i := range p.Items {
@@ -86,7 +93,7 @@ func (x item) has(yield func(part) bool) {
 			return
 		}
 	}
-	// An item that is no function has these too, zero as they are then.
+	// An item that is no function has these too, zero as they are then: each is a level, none an expression.
 	_ = yield(typed{&x.Result, shape.rest}) &&
 		yieldStmts(x.Body, yield) &&
 		yield(expression{&x.Return, shape.rest})
@@ -148,7 +155,10 @@ func (s statement) inExprs() standing {
 
 // inArgs says what may stand in the expression's Args.
 func (e expression) inArgs() standing {
-	if e.Op == api.ECall {
+	switch {
+	case e.stands == zeroOnly:
+		return zeroOnly
+	case e.Op == api.ECall:
 		return lentToo
 	}
 	return wholeOne

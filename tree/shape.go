@@ -119,5 +119,6 @@ func itemShapeOf(kind uint8) itemShape {
 	case api.IFn:
 		return itemShape{known: true, name: aName, fieldName: aName, body: true}
 	}
-	return itemShape{}
+	// No row of the table names the Return of an item of no kind.
+	return itemShape{rest: zeroOnly}
 }

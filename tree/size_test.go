@@ -40,21 +40,58 @@ func TestSizes(t *testing.T) {
 	checkSize(t, "a Return", items(api.Item{Kind: api.IFn, Name: "f", Result: mk(api.TInt), Return: deepExpr(4)}), 6, 8)
 }
 
-// P3.2: a type, an expression that is zero is 1 deep, and an expression that is zero is one.
+// P3.2: a type, an expression that is zero is 1 deep, and an expression that is zero is one, but for the Return of an item that is no function.
 func TestZeroSizes(t *testing.T) {
-	checkSize(t, "a zero item", items(api.Item{}), 3, 2)
-	checkSize(t, "a struct without fields", items(api.Item{Kind: api.IStruct, Name: "S"}), 3, 2)
-	checkSize(t, "an enum without payloads", items(api.Item{Kind: api.IEnum, Name: "E", Fields: fields(api.Type{}, "A B")}), 3, 2)
-	checkSize(t, "a struct of Boxes", items(api.Item{Kind: api.IStruct, Name: "S", Fields: fields(deepType(2), "a b")}), 4, 2)
+	checkSize(t, "a zero item", items(api.Item{}), 3, 1)
+	checkSize(t, "a struct without fields", items(api.Item{Kind: api.IStruct, Name: "S"}), 3, 1)
+	checkSize(t, "an enum without payloads", items(api.Item{Kind: api.IEnum, Name: "E", Fields: fields(api.Type{}, "A B")}), 3, 1)
+	checkSize(t, "a struct of Boxes", items(api.Item{Kind: api.IStruct, Name: "S", Fields: fields(deepType(2), "a b")}), 4, 1)
+	checkSize(t, "a function that is zero but for its kind", items(api.Item{Kind: api.IFn}), 3, 2)
 	checkSize(t, "a zero statement", main(api.Stmt{}), 3, 3)
 	checkSize(t, "a zero expression", main(do(api.Expr{})), 4, 4)
 	checkSize(t, "zero expressions in one", main(do(ex(0, api.Expr{}, api.Expr{}))), 5, 6)
 	checkSize(t, "a channel of a zero type", main(api.Stmt{Op: api.SChan}), 4, 3)
 	checkSize(t, "a Box of a zero type", main(api.Stmt{Op: api.SChan, Type: mk(0, api.Type{})}), 5, 3)
-	checkSize(t, "a zero type in a parameter", items(api.Item{Fields: []api.Field{{Type: mk(0, mk(0, api.Type{}))}}}), 5, 2)
+	checkSize(t, "a zero type in a parameter", items(api.Item{Fields: []api.Field{{Type: mk(0, mk(0, api.Type{}))}}}), 5, 1)
 }
 
-// P3.2: programs that aren't whole, too: fields that don't count for a kind are gone through, but a Type of another statement than a channel's isn't.
+// P3.2: a function's Return counts with all that is in it; what stands in that of another item, zero or not, is a level each, but no expression.
+func TestSizesOfReturns(t *testing.T) {
+	returns := []struct {
+		what   string
+		e      api.Expr
+		levels int
+		size   int
+	}{
+		{"zero", api.Expr{}, 1, 1},
+		{"zero but for an At", api.Expr{At: 5}, 1, 1},
+		{"0", number(0), 1, 1},
+		{"additions", deepExpr(7), 7, 13},
+		{"a call of what is lent", call("f", at(api.EShare, "x"), call("g", number(1), api.Expr{})), 3, 5},
+		{"of no kind", ex(0, number(1), ex(0, number(2))), 3, 4},
+	}
+	for _, r := range returns {
+		for kind := range 256 {
+			x := api.Item{Kind: uint8(kind), Return: r.e}
+			size := 1
+			if x.Kind == api.IFn {
+				size += r.size
+			}
+			checkSize(t, r.what, items(x), 2+r.levels, size)
+			x.Body = []api.Stmt{do(r.e)}
+			checkSize(t, r.what+" and a statement", items(x), 3+r.levels, size+1+r.size)
+		}
+	}
+	of := mk(api.TInt)
+	s := api.Item{Kind: api.IStruct, Name: "S", Fields: fields(of, "a b")}
+	e := api.Item{Kind: api.IEnum, Name: "E", Fields: fields(of, "A B")}
+	f := main().Items[0]
+	checkSize(t, "a struct and an enum", items(s, e), 3, 2)
+	checkSize(t, "a struct, an enum and a function", items(s, e, f), 3, 4)
+	checkSize(t, "a function ahead of structs", items(f, s, s), 3, 4)
+}
+
+// P3.2: programs that aren't whole, too: fields that don't count for a kind are gone through, but a Type of another statement than a channel's isn't; and the Return of an item that is no function adds to how deep they are alone.
 func TestSizesOfWhatIsNotWhole(t *testing.T) {
 	all := api.Stmt{Type: deepType(9), Exprs: []api.Expr{number(1)}, Body: []api.Stmt{block()}, Else: []api.Stmt{block(block())}, Arms: []api.Arm{{Body: []api.Stmt{{}, {}}}}}
 	for op := range 256 {
@@ -65,14 +102,19 @@ func TestSizesOfWhatIsNotWhole(t *testing.T) {
 		}
 		checkSize(t, "a statement of all fields", main(all), depth, 9)
 		checkSize(t, "an expression with Args", main(do(ex(uint8(op), deepExpr(3)))), 7, 9)
-		checkSize(t, "an item of all fields", items(api.Item{Kind: uint8(op), Fields: fields(deepType(3), "a"), Result: deepType(2), Body: []api.Stmt{block()}, Return: deepExpr(2)}), 5, 5)
-		checkSize(t, "a type", items(api.Item{Result: mk(uint8(op), mk(api.TInt), deepType(4))}), 7, 2)
+		size := 2
+		if uint8(op) == api.IFn {
+			size = 5
+		}
+		checkSize(t, "an item of all fields", items(api.Item{Kind: uint8(op), Fields: fields(deepType(3), "a"), Result: deepType(2), Body: []api.Stmt{block()}, Return: deepExpr(2)}), 5, size)
+		checkSize(t, "a type", items(api.Item{Result: mk(uint8(op), mk(api.TInt), deepType(4))}), 7, 1)
 	}
-	checkSize(t, "31 items", api.Program{Items: make([]api.Item, 31)}, 3, 62)
+	checkSize(t, "31 items", api.Program{Items: make([]api.Item, 31)}, 3, 31)
+	checkSize(t, "31 functions", api.Program{Items: slices.Repeat([]api.Item{{Kind: api.IFn}}, 31)}, 3, 62)
 	checkSize(t, "7 arguments", main(do(call("f", slices.Repeat([]api.Expr{number(1)}, 7)...))), 5, 11)
 	checkSize(t, "deep statements", main(deepStmt(1000, block)), 1002, 2001)
 	checkSize(t, "deep expressions", main(do(deepExpr(1000))), 1003, 2002)
-	checkSize(t, "deep types", items(api.Item{Result: deepType(1000)}), 1002, 2)
+	checkSize(t, "deep types", items(api.Item{Result: deepType(1000)}), 1002, 1)
 }
 
 // P3.2: each spot of each kind, held against brackets.
