@@ -210,12 +210,8 @@ func (j *judge) spawn(s api.Stmt) {
 	for i, e := range s.Exprs {
 		t, _ := typing.Expr(j.p, j.env, e)
 		params = append(params, api.Field{Name: s.Names[i], Type: t})
-		lends := e.Op == api.EShare || e.Op == api.EMut
 		if (t.Kind == api.TRef || t.Kind == api.TMut) && j.depths[e.Place.Name] >= j.scope {
 			j.asks(e.At, func(here) api.Errno { return api.ErrAlias })
-			if lends {
-				j.lend(e.Place, e.Op, till)
-			}
 			continue
 		}
 		j.expr(e, till)

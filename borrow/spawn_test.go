@@ -27,10 +27,33 @@ func TestTooSoon(t *testing.T) {
 	)
 }
 
-// P14.1: what a list lends of a variable that dies too soon is lent all the same; a reference that dies too soon isn't moved.
-func TestTooSoonGoesOn(t *testing.T) {
+// P14.1: what a list would lend of a variable that dies too soon is neither used nor lent: behind the spawn, and further on in its list, it may be all that it might be ahead of it.
+func TestTooSoonLendsNothing(t *testing.T) {
 	all(t,
-		"scope { let a = box(1); spawn (p = #a &a) { } a.*; #l a; #u a; }", "scope { let a = box(1); spawn (p = #a &mut a) { } #l a.*; }", "scope { { let a = box(1); spawn (p = #a &mut a) { } #l a.*; } }", "scope { let u = m; spawn (p = #a u) { } u; #u u; }",
+		"scope { let a = box(1); spawn (p = #a &a) { } a.*; a; #u a; }", "scope { let a = box(1); spawn (p = #a &a) { } let b = a; #u a; }", "scope { let a = box(1); spawn (p = #a &a) { } drop a; a = box(2); a.* = 3; }", "scope { let a = box(1); spawn (p = #a &a) { } let u = &mut a; #l a.*; }", "scope { let a = box(1); spawn (p = #a &a) { } poke(&mut a); eat(a); }", "scope { let a = E.A; spawn (p = #a &a) { } match a: E { A => { } B(b) => { } C(c) => { } } #u a; }", "scope { let a = mutex(1); spawn (p = #a &mut a) { } lock a as g { g.* = 2; } drop a; }", "scope { let a = s; spawn (p = #a &mut a.b) { } a.b.* = 1; let S { i, j, k } = a; }",
+		"scope { let a = box(1); spawn (p = #a &mut a) { } a.*; let u = &a; peek(&a); #l a.* = 2; }", "scope { let a = box(1); spawn (p = #a &mut a) { } a = box(2); a; }", "scope { let a = box(1); spawn (p = #a &mut a.*) { } drop a; #u a.*; }",
+		// Further on in the list, and in that of another spawn.
+		"scope { let a = box(1); spawn (p = #a &mut a, q = #a &a, o = a.*, n1 = a) { } #u a; }", "scope { let a = box(1); spawn (p = #a &mut a, q = peek(&a), o = poke(&mut a)) { } spawn (p = #a &a) { } spawn (p = a) { } #u a; }", "scope { let a = box(1); spawn (p = a, q = #a &a) { } a = box(2); a; }",
+		// In whatever block, and round after round.
+		"scope { { let a = box(1); spawn (p = #a &mut a) { } a.*; a; #u a; } }", "scope { let a = box(1); { spawn (p = #a &mut a) { } a.*; } a; }", "scope { let a = box(1); if true { spawn (p = #a &a) { } } else { spawn (p = #a &mut a) { } } a.* = 2; a; }", "scope { let a = box(1); match e: E { A => { spawn (p = #a &mut a) { } } B(b) => { spawn (p = #a &mut b) { } b; } C(c) => { } } a; }", "scope { let a = box(1); while a.* < 1 { spawn (p = #a &mut a) { } a = box(2); } a; }", "while true { scope { let a = box(1); spawn (p = #a &mut a) { } a; } }", "let c = mutex(1); scope { lock c as g { spawn (p = #a &mut g.*) { } g.* = 2; g; #u g; } }",
+		// Scopes within one another.
+		"scope { let a = box(1); spawn (p = #a &mut a) { } scope { spawn (q = &mut a) { } #l a.*; } a; }", "scope { scope { let a = box(1); spawn (p = #a &mut a) { } a; } let a1 = x; spawn (p = #a &a1) { } a1; }", "scope { spawn (p = x) { scope { let a = box(1); spawn (q = #a &mut a) { } a; #u a; } } }",
+		// Where nothing is set, or what stands there is lent by others, that isn't told of it either, and these stay as they are.
+		"scope { let a = box(1); drop a; spawn (p = #a &mut a) { } a = box(2); a; }", "scope { let a = box(1); let u = &a; spawn (p = #a &mut a) { } a.*; #l a.* = 2; }", "scope { let a = box(1); let u = &mut a; spawn (p = #a &a) { } #l a.*; }", "scope { let a = box(1); { let u = &mut a; spawn (p = #a &a) { } #l a.*; } a.*; a; }",
+	)
+}
+
+// P14.1: nor is a reference of a variable that dies too soon moved, or read.
+func TestTooSoonMovesNothing(t *testing.T) {
+	all(t,
+		"scope { let u = m; spawn (p = #a u) { } u; #u u; }", "scope { let u = m; spawn (p = #a u, q = #a u) { } u.*.* = 1; drop u; }", "scope { let u = r; drop u; spawn (p = #a u) { } #u u; }", "scope { let u = m; let v = &u; spawn (p = #a u) { } #l u; }",
+	)
+}
+
+// P14.1: what lives long enough is lent till the scope's end, whether it might be or not, and whatever else of the list dies too soon.
+func TestLongEnoughLends(t *testing.T) {
+	all(t,
+		"scope { let a = box(1); spawn (p = #a &mut a, q = &mut x) { } a.*; #l x.*; } x;", "scope { let a = box(1); spawn (p = &x, q = #a &a) { } a; #l x; #u x; }", "drop x; scope { spawn (p = #u &mut x) { } #l x = box(1); #l x.*; } x;", "let u = &x; scope { spawn (p = #l &mut x) { } #l x.*; } x.*;", "let a = box(1); scope { spawn (p = &a) { } #l a; #u a; }", "scope { let a = box(1); scope { spawn (p = &mut a) { } #l a.*; } spawn (p = #a &mut a) { } a.*; }",
 	)
 }
 

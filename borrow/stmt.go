@@ -115,13 +115,10 @@ func (b *body) spawn(s api.Stmt) step {
 	return row(steps...)
 }
 
-// handed is the step of an expression of a spawn's list: a reference is handed over only of a variable that lives since before the scope.
+// handed is the step of an expression of a spawn's list: a reference is handed over only of a variable that lives since before the scope. Of one that doesn't just that is told: such a reference is no use of its place, so that nothing is moved, and nothing lent, by it.
 func (b *body) handed(e api.Expr, t api.Type) step {
-	dies := isReference(t) && b.depths[e.Place.Name] >= b.scope
 	switch {
-	case dies && isLent(e):
-		return row(b.alias(e.At), lend(e.Place, e.Op == api.EMut, b.scope))
-	case dies:
+	case isReference(t) && b.depths[e.Place.Name] >= b.scope:
 		return b.alias(e.At)
 	case isLent(e):
 		return b.lent(e, b.scope)
