@@ -1,0 +1,24 @@
+package verdict
+
+// dice throws the same numbers each time.
+type dice uint64
+
+func (d *dice) below(n int) int {
+	x := *d
+	x ^= x << 13
+	x ^= x >> 7
+	x ^= x << 17
+	*d = x
+	return int(x>>11) % n
+}
+
+func pick[T any](d *dice, list ...T) T { return list[d.below(len(list))] }
+
+func shuffled[T any](d *dice, list []T) []T {
+	l := append([]T{}, list...)
+	for i := range l {
+		k := i + d.below(len(l)-i)
+		l[i], l[k] = l[k], l[i]
+	}
+	return l
+}
