@@ -159,7 +159,7 @@ func TestSpoiled(t *testing.T) {
 		}
 		stage := Stage(p)
 		stages[stage]++
-		judged(t, s, p, tellsOf(p, stage), stage)
+		judged(t, s, p, togetherOf(p, stage), stage)
 		for _, chapter := range chapters() {
 			if n := len(tellsOf(p, chapter)); (chapter < stage || stage == 0) && n > 0 || chapter == stage && n == 0 {
 				t.Fatalf("%s\nchapter %d: %d, stage %d", s, chapter, n, stage)
@@ -209,7 +209,11 @@ func TestLarge(t *testing.T) {
 	p := read(t, "fn main() -> int { let v = box(1); drop v; scope { spawn (x = rc(1)) { } } 0 }")
 	drop, scope := p.Items[0].Body[1], p.Items[0].Body[2]
 	p.Items[0].Body = slices.Concat(p.Items[0].Body[:1], slices.Repeat([]api.Stmt{drop}, long), []api.Stmt{scope})
-	if l := Check(p); len(l) != 1 || l[0] != (api.Fault{Err: api.ErrUninit, At: drop.At}) || Stage(p) != 14 {
+	if l := Check(p); !slices.Equal(l, []api.Fault{{Err: api.ErrUninit, At: drop.At}, {Err: api.ErrSend, At: scope.Body[0].Exprs[0].At}}) || Stage(p) != 14 {
+		t.Error(len(l), Stage(p))
+	}
+	p.Items[0].Body = slices.Concat(p.Items[0].Body[:1], slices.Repeat([]api.Stmt{scope}, long), p.Items[0].Body[1:3])
+	if l := Check(p); len(l) != long+1 || l[0].Err != api.ErrUninit || !slices.Equal(Kinds(l[1:]), []api.Errno{api.ErrSend}) || Stage(p) != 14 || Accept(p) {
 		t.Error(len(l), Stage(p))
 	}
 	p.Items[0].Body = slices.Repeat([]api.Stmt{scope}, long)

@@ -34,6 +34,18 @@ func tellsOf(p api.Program, chapter int) []api.Fault {
 	return nil
 }
 
+// togetherOf is what is told where this chapter is the first one that tells something: what the one behind it tells, too, where the two are told together.
+func togetherOf(p api.Program, chapter int) []api.Fault {
+	behind := 0
+	switch chapter {
+	case 7:
+		behind = 10
+	case 14:
+		behind = 15
+	}
+	return slices.Concat(tellsOf(p, chapter), tellsOf(p, behind))
+}
+
 // elsewhere is a text with other blanks and remarks between its tokens.
 func elsewhere(d *dice, text string) string {
 	blank := regexp.MustCompile(` +`)
@@ -92,7 +104,7 @@ func errsOf(l []api.Fault) []api.Errno {
 func TestRightSoFar(t *testing.T) {
 	d := dice(168)
 	late := []api.Errno{api.ErrUninit, api.ErrLoan, api.ErrAlias, api.ErrSend}
-	met := 0
+	met, both := 0, 0
 	for range 600 {
 		text := bare(t, numbered(&d, scatteredItems(&d)))
 		p := read(t, text)
@@ -105,12 +117,15 @@ func TestRightSoFar(t *testing.T) {
 		if isLate {
 			met++
 		}
-		if isLate && slices.Contains(kinds, api.ErrSend) && len(kinds) > 1 {
+		if isLate && !slices.Equal(kinds, Kinds(slices.Concat(borrow.Check(p), cross.Check(p)))) {
 			t.Fatalf("%s\n%v", text, kinds)
 		}
+		if isLate && slices.Contains(kinds, api.ErrSend) && len(kinds) > 1 {
+			both++
+		}
 	}
-	if met < 100 {
-		t.Error(met)
+	if met < 100 || both < 50 {
+		t.Error(met, both)
 	}
 	// Mending the names of a program brings to light what is behind them.
 	wrong := "fn main() -> int { let v = rc(1); scope { spawn (w = v) { } } let x = v; y }"
@@ -118,7 +133,7 @@ func TestRightSoFar(t *testing.T) {
 	wrong = strings.Replace(wrong, " y }", " true }", 1)
 	judged(t, wrong, read(t, wrong), []api.Fault{{Err: api.ErrType, At: strings.Index(wrong, "true }")}}, 10)
 	wrong = strings.Replace(wrong, "true }", "3 }", 1)
-	judged(t, wrong, read(t, wrong), []api.Fault{{Err: api.ErrUninit, At: strings.Index(wrong, "v; 3")}}, 14)
+	judged(t, wrong, read(t, wrong), []api.Fault{{Err: api.ErrUninit, At: strings.Index(wrong, "v; 3")}, {Err: api.ErrSend, At: strings.Index(wrong, "v) {")}}, 14)
 	wrong = strings.Replace(wrong, "let x = v; ", "", 1)
 	judged(t, wrong, read(t, wrong), []api.Fault{{Err: api.ErrSend, At: strings.Index(wrong, "v) {")}}, 15)
 	judged(t, wrong, read(t, strings.Replace(wrong, "rc(", "arc(", 1)), nil, 0)

@@ -37,7 +37,7 @@ func numbered(d *dice, items []string) string {
 	return strings.Join(items, " ")
 }
 
-// P16.1, P16.2, P16.5: of faults of several chapters just those of the first of these are told, all of them, wherever they stand.
+// P16.1, P16.2, P16.5: of faults of several chapters all those of the first of these are told, wherever they stand, and behind those of 14 those of 15.
 func TestOneBehindTheOther(t *testing.T) {
 	d := dice(161)
 	for range 12 {
@@ -70,31 +70,39 @@ func TestEachPlanted(t *testing.T) {
 
 // P16.1, P16.2: faults of several chapters within one function, or one body.
 func TestWithinOne(t *testing.T) {
-	for _, c := range []struct {
-		body    string
-		chapter int
-		err     api.Errno
-	}{
-		{"let v = rc(1); let w = v; scope { spawn (x = v) { } }", 14, api.ErrUninit},
-		{"let v = rc(1); scope { spawn (x = &v) { } drop v; }", 14, api.ErrLoan},
-		{"scope { let v = rc(1); spawn (x = &v) { } }", 14, api.ErrAlias},
-		{"scope { spawn (x = rc(1)) { drop x; drop x; } }", 14, api.ErrUninit},
-		{"let v = rc(1); scope { spawn (x = v) { let y = 1; } } drop v; true + 1;", 10, api.ErrType},
-		{"let v = box(1); drop v; drop v; 1 < true; w;", 6, api.ErrName},
-		{"if 1 { } chan<&int>(1) as s, r;", 7, api.ErrTable},
-		{"chan<&int>(1) as s, r; spawn () { }", 6, api.ErrScope},
-		{"let v = rc(1); scope { spawn (x = &v) { } }", 15, api.ErrSend},
+	for _, body := range []string{
+		"let v = rc(1); let w = v; scope { spawn (x = #send# #uninit# v) { } }",
+		"let v = rc(1); scope { spawn (x = #send# &v) { } #loan# drop v; }",
+		"scope { let v = rc(1); spawn (x = #send# #alias# &v) { } }",
+		"scope { spawn (x = #send# rc(1)) { drop x; #uninit# drop x; } }",
+		"let v = rc(1); let w = box(2); scope { spawn (x = #send# v, y = w) { drop y; } spawn (x = #uninit# w, y = #send# rc(1)) { } } #uninit# drop v;",
+		"let v = rc(1); scope { spawn (x = #send# v) { let y = 1; } } #uninit# drop v; true #type# + 1;",
+		"let v = box(1); drop v; #uninit# drop v; 1 #type# < true; #name# w;",
+		"#type# if 1 { } #table# chan<&int>(1) as s, r;",
+		"#table# chan<&int>(1) as s, r; let v = rc(1); scope { spawn (x = #send# v) { } } #uninit# drop v;",
+		"#table# chan<&int>(1) as s, r; #scope# spawn () { }",
+		"let v = rc(1); scope { spawn (x = #send# &v) { } }",
 	} {
-		for _, text := range []string{"fn main() -> int { " + c.body + " 0 }", "fn main() -> int { 0 } fn f(a: int) -> int { while a < 3 { " + c.body + " } 1 }", "fn main() -> int { scope { spawn (a = 1) { if a < 1 { } else { " + c.body + " } } } 0 }"} {
-			if c.err == api.ErrScope && strings.HasPrefix(c.body, "spawn") {
-				continue
-			}
-			p := read(t, text)
-			l := Check(p)
-			if len(l) != 1 || l[0].Err != c.err || Stage(p) != c.chapter || Accept(p) || !slices.Equal(Kinds(l), []api.Errno{c.err}) {
-				t.Errorf("%s\n%v, stage %d", text, l, Stage(p))
-			}
-		}
+		all(t, "fn main() -> int { "+body+" 0 }", "fn main() -> int { 0 } fn f(a: int) -> int { while a < 3 { "+body+" } 1 }", "fn main() -> int { scope { spawn (a = 1) { if a < 1 { } else { "+body+" } } } 0 }")
+	}
+}
+
+// P16.1: where chapter 7 tells something, what 10 tells of such a program is told behind it; where 14 does, all that 15 has to say, function by function.
+func TestTogether(t *testing.T) {
+	const table, infinite, arg = api.ErrTable, api.ErrInfinite, api.ErrArg
+	for _, c := range []struct {
+		text  string
+		want  []api.Fault
+		stage int
+	}{
+		{"fn f(a: Box<&int>) -> int { 0 } fn main() -> int { 0 }", []api.Fault{{Err: table, At: 0}, {Err: arg, At: 0}}, 7},
+		{" fn f() -> int { true } fn g(a: Box<&int>) -> int { 0 } fn main() -> int { 0 }", []api.Fault{{Err: table, At: 24}, {Err: arg, At: 0}}, 7},
+		{"struct S { a: S } struct T { a: &T } fn main() -> int { true }", []api.Fault{{Err: infinite, At: 0}, {Err: table, At: 18}, {Err: arg, At: 0}}, 7},
+		{"fn main() -> int { let x = rc(1); scope { spawn (y = x) { drop y; } } drop x; 0 }", []api.Fault{{Err: api.ErrUninit, At: 70}, {Err: api.ErrSend, At: 53}}, 14},
+		{"fn main() -> int { let a = rc(1); scope { let y = box(2); spawn (b = &y, c = clone(a)) { } } 0 }", []api.Fault{{Err: api.ErrAlias, At: 69}, {Err: api.ErrSend, At: 77}}, 14},
+		{"fn f(a: Rc<int>) -> int { scope { spawn (b = a) { drop b; } } 0 } fn main() -> int { let x = box(1); drop x; drop x; f(rc(unbox(x))) }", []api.Fault{{Err: api.ErrUninit, At: 109}, {Err: api.ErrUninit, At: 128}, {Err: api.ErrSend, At: 45}}, 14},
+	} {
+		judged(t, c.text, read(t, c.text), c.want, c.stage)
 	}
 }
 

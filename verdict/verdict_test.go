@@ -57,16 +57,25 @@ func marked(t *testing.T, s string) (bare string, faults []api.Fault, chapters [
 	}
 }
 
-// least is the verdict of a program of which these are all faults that any chapter has to tell: those of the first chapter that has one.
+// least is the verdict of a program of which these are all faults that any chapter has to tell: those of the first chapter that has one; behind those of chapter 7 what 10 tells of such a program, behind those of 14 those of 15.
 func least(faults []api.Fault, chapters []int) (first []api.Fault, stage int) {
+	of := func(chapter int) (l []api.Fault) {
+		for i, f := range faults {
+			if chapters[i] == chapter {
+				l = append(l, f)
+			}
+		}
+		return l
+	}
 	if len(chapters) == 0 {
 		return nil, 0
 	}
 	stage = slices.Min(chapters)
-	for i, f := range faults {
-		if chapters[i] == stage {
-			first = append(first, f)
-		}
+	switch first = of(stage); stage {
+	case 7:
+		first = append(first, api.Fault{Err: api.ErrArg})
+	case 14:
+		first = append(first, of(15)...)
 	}
 	return first, stage
 }
